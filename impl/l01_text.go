@@ -102,6 +102,15 @@ func splitAt(s string, mark byte) []string {
 	return parts
 }
 
+// copyTexts copies the strings too, since results share no memory with arguments.
+func copyTexts(list []string) []string {
+	copied := make([]string, 0, len(list))
+	for _, s := range list {
+		copied = append(copied, strings.Clone(s))
+	}
+	return copied
+}
+
 // partsOf yields the parts of s between the marks, one more than there are marks.
 func partsOf(s string, mark byte) iter.Seq[string] {
 	return func(yield func(string) bool) {
