@@ -1098,18 +1098,25 @@ func TestPromise16GraphArguments(t *testing.T) {
 	}
 }
 
-// span is a piece of memory, from its first address to the one after its last.
-type span [2]uintptr
+// span is a piece of memory. It holds a pointer rather than an address, so that the memory is not freed and given to a later result.
+type span struct {
+	start unsafe.Pointer
+	size  uintptr
+}
 
 func textSpan(s string) span {
-	start := uintptr(unsafe.Pointer(unsafe.StringData(s)))
-	return span{start, start + uintptr(len(s))}
+	return span{unsafe.Pointer(unsafe.StringData(s)), uintptr(len(s))}
 }
 
 func listSpan[T any](list []T) span {
 	var element T
-	start := uintptr(unsafe.Pointer(unsafe.SliceData(list)))
-	return span{start, start + uintptr(cap(list))*unsafe.Sizeof(element)}
+	return span{unsafe.Pointer(unsafe.SliceData(list)), uintptr(cap(list)) * unsafe.Sizeof(element)}
+}
+
+// meets reports whether two spans, neither of them empty, overlap.
+func (a span) meets(b span) bool {
+	x, y := uintptr(a.start), uintptr(b.start)
+	return a.size > 0 && b.size > 0 && x < y+b.size && y < x+a.size
 }
 
 func keySpans(list []string) []span {
@@ -1136,7 +1143,7 @@ func checkSpans(t *testing.T, what string, results []span, arguments []span) {
 	t.Helper()
 	for i, a := range results {
 		for k, b := range slices.Concat(results[:i], arguments) {
-			if a[0] < a[1] && b[0] < b[1] && a[0] < b[1] && b[0] < a[1] {
+			if a.meets(b) {
 				with := "an argument"
 				if k < i {
 					with = "another part of it"
