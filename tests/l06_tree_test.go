@@ -712,6 +712,19 @@ func TestGetTreeLimits(t *testing.T) {
 	}
 }
 
+// tokenTexts returns every sequence of at most size of the tokens, of which there are at most ten.
+func tokenTexts(tokens []string, size int) []string {
+	list := allTexts("0123456789"[:len(tokens)], size)
+	for i, code := range list {
+		text := ""
+		for k := range len(code) {
+			text += tokens[code[k]-'0']
+		}
+		list[i] = text
+	}
+	return list
+}
+
 // Every sequence of up to six tokens is read as the document's grammar says.
 func TestPromise6OtherTexts(t *testing.T) {
 	tokens := []string{"[", "]", "{", "}", ",", ":", "1", `"a"`, " "}
@@ -723,11 +736,7 @@ func TestPromise6OtherTexts(t *testing.T) {
 			left++
 		}
 	}
-	for _, code := range allTexts("012345678", 6) {
-		s := ""
-		for i := range len(code) {
-			s += tokens[code[i]-'0']
-		}
+	for _, s := range tokenTexts(tokens, 6) {
 		check(s)
 	}
 	for _, s := range allTexts("[{\"a:0,}]\n", 5) {
